@@ -2,6 +2,7 @@ package css_test
 
 import (
 	"math"
+	"strconv"
 	"strings"
 	"testing"
 
@@ -20,6 +21,7 @@ var sayings = []said{
 	{"font-weight:bold", 1, 0},
 	{"font-weight:700", 1, 0},
 	{"font-weight:normal", 0, 1},
+	{"font-weight:400", 0, 1},
 	{"font-style:italic", 2, 0},
 	{"font-style:normal", 0, 2},
 	{"text-decoration:underline", 4, 8},
@@ -39,17 +41,20 @@ var nothings = []string{
 	"font-weight", "font-style", "text-decoration", "font-weight bold", "font-weight=bold",
 	"font-weight:", ":bold", "font-weight::bold", "font-weight:bold:", "font-weight:bold:x", ":font-weight:bold",
 	"font-weight: ", "font-style:", "font-style: ", "text-decoration:", "text-decoration: ", "text-decoration:    ",
-	"font-weight:600", "font-weight:400", "font-weight:7", "font-weight:70", "font-weight:7000", "font-weight:0700", "font-weight:+700", "font-weight:700.0",
-	"font-weight:bolder", "font-weight:bol", "font-weight:b old", "font-weight:bold bold", "font-weight:bold normal", "font-weight:bold 700", "font-weight:bold,700",
+	"font-weight:100", "font-weight:300", "font-weight:500", "font-weight:600", "font-weight:800", "font-weight:7", "font-weight:70", "font-weight:7000", "font-weight:0700", "font-weight:+700", "font-weight:700.0", "font-weight:7 00", "font-weight:700 700",
+	"font-weight:4", "font-weight:40", "font-weight:4000", "font-weight:0400", "font-weight:+400", "font-weight:400.0", "font-weight:4e2", "font-weight:0x190", "font-weight:4 00", "font-weight:400 400", "font-weight:400 normal", "font-weight:400 700", "font-weight:400,700",
+	"font-weight:400!important", "font-weight:400 !important", "font-weight:400px", "font-weight:-400", "font-weight:\"400\"", "font-weight:400:", "font-weight::400", "font-weight:400:400", "font-weight 400", "font-weight=400", ":400", "400",
+	"font-weight:bolder", "font-weight:bol", "font-weight:b old", "font-weight:bold bold", "font-weight:bold normal", "font-weight:normal normal", "font-weight:normal 400", "font-weight:nor mal", "font-weight:bold 400", "font-weight:bold 700", "font-weight:bold,700",
 	"font-weight:bold!important", "font-weight:bold !important", "font-weight:\"bold\"", "font-weight:'bold'", "font-weight:/**/bold",
 	"font-weight:none", "font-weight:italic", "font-weight:underline", "font-weight:line-through", "font-weight:normals", "font-weight:inherit",
-	"font-style:700", "font-style:bold", "font-style:none", "font-style:underline", "font-style:oblique", "font-style:italics", "font-style:italic italic", "font-style:italic normal",
-	"text-decoration:normal", "text-decoration:bold", "text-decoration:700", "text-decoration:italic",
+	"font-style:700", "font-style:400", "font-style:italic 400", "font-style:bold", "font-style:none", "font-style:underline", "font-style:oblique", "font-style:italics", "font-style:italic italic", "font-style:italic normal",
+	"text-decoration:normal", "text-decoration:bold", "text-decoration:700", "text-decoration:400", "text-decoration:underline 400", "text-decoration:none 400", "text-decoration:italic",
 	"text-decoration:none none", "text-decoration:none underline", "text-decoration:underline none", "text-decoration:line-through none",
 	"text-decoration:underline x", "text-decoration:x underline", "text-decoration:underline x line-through", "text-decoration:underline,line-through",
 	"text-decoration:underlines", "text-decoration:under line", "text-decoration:line through", "text-decoration:line- through", "text-decoration:linethrough", "text-decoration:strike",
 	"text-decoration:underlineline-through", "text-decoration:underline red", "text-decoration:overline", "text-decoration:underline overline",
 	"color:red", "fontweight:bold", "font weight:bold", "font -weight:bold", "font- weight:bold", "font_weight:bold", "font-weights:bold", "xfont-weight:bold", "x font-weight:bold", "-font-weight:bold",
+	"color:400", "weight:400", "font:400", "font-weights:400", "xfont-weight:400", "font weight:400",
 	"font:bold", "font:italic", "weight:bold", "style:italic", "font-style-x:italic", "text-decoration-line:underline", "text-decorations:none", "decoration:none", "text decoration:none",
 	"\x00", "\xff", "font-weight:\xffbold", "font-weight:bold\xff", "\xfffont-weight:bold", "font-weight\xc3:bold", "font-weight:bo\x00ld", "text-decoration:underline\xffline-through",
 }
@@ -182,9 +187,9 @@ func TestP4_1OnlyAToZHaveSmallOnes(t *testing.T) {
 	for _, s := range []string{
 		"font-we\u0130ght:bold", "font-we\u0131ght:bold", "font-style:\u0130talic", "font-style:\u0131talic", "font-\u017Ftyle:italic",
 		"text-decorat\u0130on:none", "text-decoration:l\u0130ne-through", "text-decoration:underl\u0130ne",
-		"\uFF46ont-weight:bold", "font-weight:\uFF22old", "font-weight:\uFF17\uFF10\uFF10", "font\u2010weight:bold", "font\u00ADweight:bold",
+		"\uFF46ont-weight:bold", "font-weight:\uFF22old", "font-weight:\uFF17\uFF10\uFF10", "font-weight:\uFF14\uFF10\uFF10", "font-weight:\u0664\u0660\u0660", "font-we\u0130ght:400", "font\u2010weight:bold", "font\u00ADweight:bold",
 		// What stands beside A to Z and - and the digits, by one bit.
-		"f/nt-weight:bold", "font\rweight:bold", "font-weight:\x1700", "font-weight:\"old", "font-weight:B/LD", "font-style:)talic", "font-weight:bo\x0cd", "font-weight:\xc2old", "font-weight:\xe2old",
+		"f/nt-weight:bold", "font\rweight:bold", "font-weight:\x1700", "font-weight:\x1400", "font-weight:4\x100", "font-weight:$00", "font-weight:4pp", "font-weight:tPP", "font-weight:\"old", "font-weight:B/LD", "font-style:)talic", "font-weight:bo\x0cd", "font-weight:\xc2old", "font-weight:\xe2old",
 	} {
 		wantParse(t, s, 0, 0)
 	}
@@ -227,13 +232,15 @@ func TestP4_1BlanksBetweenWords(t *testing.T) {
 		wantParse(t, "text-decoration:"+b+"line-through"+b+"line-through"+b, 8, 4)
 		wantParse(t, "text-decoration:underline"+b+"none", 0, 0)
 		wantParse(t, "font-weight:bo"+b+"ld", 0, 0)
+		wantParse(t, "font-weight:nor"+b+"mal", 0, 0)
+		wantParse(t, "font-weight:4"+b+"00", 0, 0)
 		wantParse(t, "font"+b+"-weight:bold", 0, 0)
 	}
 }
 
 func TestP4_1RowsOfWords(t *testing.T) {
 	known := map[string]int{"underline": 4, "line-through": 8, "UnderLine": 4, "LINE-THROUGH": 8}
-	all := []string{"underline", "line-through", "UnderLine", "LINE-THROUGH", "none", "x", "normal"}
+	all := []string{"underline", "line-through", "UnderLine", "LINE-THROUGH", "none", "x", "normal", "400"}
 	for n := range len(all) * len(all) * len(all) * len(all) {
 		var l []string
 		set, ok := 0, true
@@ -256,7 +263,7 @@ func TestP4_1RowsOfWords(t *testing.T) {
 }
 
 func TestP4_1EachByteAtEachPlace(t *testing.T) {
-	styles := []string{"font-weight:bold;font-style:italic", "text-decoration: underline line-through", "font-weight: 700;text-decoration:none ;font-style:normal"}
+	styles := []string{"font-weight:bold;font-style:italic", "text-decoration: underline line-through", "font-weight: 700;text-decoration:none ;font-style:normal", "font-weight:bold; font-weight: 400 ;font-style:italic", "font-weight:700;font-weight:normal"}
 	for _, s := range styles {
 		for at := range len(s) + 1 {
 			for b := range 256 {
@@ -318,10 +325,44 @@ func TestP4_1LaterOnesGoAhead(t *testing.T) {
 	}
 	wantParse(t, "font-weight:normal;font-weight:bold", 1, 0)
 	wantParse(t, "font-weight:bold;font-weight:normal", 0, 1)
+	wantParse(t, "font-weight:400;font-weight:bold", 1, 0)
+	wantParse(t, "font-weight:400;font-weight:700", 1, 0)
+	wantParse(t, "font-weight:bold;font-weight:400", 0, 1)
+	wantParse(t, "font-weight:700;font-weight:400", 0, 1)
+	wantParse(t, "font-style:italic;font-weight:400", 2, 1)
+	wantParse(t, "font-weight:400;font-weight:600", 0, 1)
+	wantParse(t, "font-weight:700;font-weight:600", 1, 0)
 	wantParse(t, "text-decoration:none;text-decoration:line-through", 8, 4)
 	wantParse(t, "text-decoration:line-through;text-decoration:none", 0, 12)
 	wantParse(t, "text-decoration:underline line-through;text-decoration:line-through", 8, 4)
 	wantParse(t, "font-weight:bold;font-style:italic;text-decoration:underline;font-style:normal;text-decoration:line-through", 9, 6)
+}
+
+func TestP4_1NumbersSayWhatTheirWordsSay(t *testing.T) {
+	words := strings.NewReplacer("700", "bold", "400", "normal")
+	for _, s := range []string{"font-weight:700", "font-weight:400", "FONT-WEIGHT : 400 ", " Font-Weight:  400;"} {
+		for _, other := range ones() {
+			for _, style := range []string{s + ";" + other, other + ";" + s} {
+				set, clear := css.Parse(words.Replace(style))
+				wantParse(t, style, set, clear)
+			}
+		}
+	}
+}
+
+func TestP4_1OfNumbersTwoAlone(t *testing.T) {
+	for n := -10; n < 10000; n++ {
+		set, clear := 0, 0
+		switch n {
+		case 400:
+			clear = api.Bold
+		case 700:
+			set = api.Bold
+		}
+		wantParse(t, "font-weight:"+strconv.Itoa(n), set, clear)
+		wantParse(t, "font-style:"+strconv.Itoa(n), 0, 0)
+		wantParse(t, "text-decoration:"+strconv.Itoa(n), 0, 0)
+	}
 }
 
 func TestP4_1LongStyles(t *testing.T) {
@@ -332,6 +373,7 @@ func TestP4_1LongStyles(t *testing.T) {
 	wantParse(t, "text-decoration:"+strings.Repeat("underline ", n/8)+strings.Repeat(" ", n)+"line-through", 12, 0)
 	wantParse(t, "text-decoration:"+strings.Repeat("underline ", n/8)+"x", 0, 0)
 	wantParse(t, strings.Repeat("font-weight:bold;font-weight:normal;", n/16), 0, 1)
+	wantParse(t, strings.Repeat("font-weight:700;font-weight:400;", n/16), 0, 1)
 	wantParse(t, "font-style:italic;"+strings.Repeat("x", n)+":"+strings.Repeat("\xff", n), 2, 0)
 }
 
@@ -520,7 +562,7 @@ func TestP4_5OfAllThatIsPrinted(t *testing.T) {
 func TestP4_5NoBitIsBothSetAndCleared(t *testing.T) {
 	some := 0
 	for _, a := range styles() {
-		for _, s := range []string{a, a + ";" + "font-weight:normal;text-decoration:underline", "font-style:normal;text-decoration:none;" + a} {
+		for _, s := range []string{a, a + ";" + "font-weight:normal;text-decoration:underline", a + ";" + "font-weight:400;text-decoration:underline", "font-style:normal;text-decoration:none;" + a} {
 			set, clear := css.Parse(s)
 			if set&clear != 0 || set&^15 != 0 || clear&^15 != 0 {
 				t.Errorf("Parse(%q) = %d, %d", s, set, clear)

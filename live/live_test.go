@@ -226,10 +226,7 @@ func long(bytes int) string { return strings.Repeat("x", bytes) }
 // Of each small tree each place is held; each change is made of that.
 func TestP11_3To5EachChangeOfEachTree(t *testing.T) {
 	all := changes(4)
-	for i, p := range small(t) {
-		if i%8 != 0 && p.tree.Count() > 3 {
-			continue
-		}
+	for _, p := range small(t) {
 		t.Run(told(p.model.twin), func(t *testing.T) {
 			t.Parallel()
 			p := p.copied()
